@@ -68,22 +68,3 @@ func read(s *store.Store, number int) (page, api.Errno) {
 	}
 	return page{number: number, data: b}, api.OK
 }
-
-// write makes b the bytes of a page, by one Write from the first byte that changes to the last, so that the log is told no more than it needs.
-func write(s *store.Store, t, number int, b []byte) api.Errno {
-	was, e := s.Read(number, 0, api.PageData)
-	if e != api.OK {
-		return e
-	}
-	from, to := 0, len(b)
-	for from < to && was[from] == b[from] {
-		from++
-	}
-	for from < to && was[to-1] == b[to-1] {
-		to--
-	}
-	if from == to {
-		return api.OK
-	}
-	return s.Write(t, number, from, b[from:to])
-}
